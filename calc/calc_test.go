@@ -8,79 +8,25 @@ import (
 	"livery/api"
 	"livery/calc"
 	"livery/rle"
+	"livery/sample"
 )
 
-const top = api.MaxValue
+const top = sample.Top
 
-func vec(mem, cores int64) api.Vec { return api.Vec{Mem: mem, Cores: cores} }
-
-func seg(at, mem, cores int64) api.Seg { return api.Seg{At: at, V: vec(mem, cores)} }
-
-// list is short for a list of runs.
-func list(l ...api.Seg) []api.Seg { return l }
-
-// box is v from from on, up to to.
-func box(from, to int64, v api.Vec) []api.Seg {
-	return list(api.Seg{At: from, V: v}, api.Seg{At: to})
-}
-
-// wrong are lists that are not canonical, for one reason each.
-var wrong = [][]api.Seg{
-	list(seg(2, 0, 0)),
-	list(seg(0, 0, 0), seg(1, 1, 1)),
-	list(seg(0, 1, 1), seg(1, 1, 1)),
-	list(seg(0, 1, 1), seg(1, 0, 0), seg(2, 0, 0)),
-	list(seg(0, 1, 1), seg(0, 2, 2)),
-	list(seg(1, 1, 1), seg(0, 2, 2)),
-	list(seg(0, 1, 1), seg(top+1, 0, 0)),
-	list(seg(-top-1, 1, 1), seg(0, 0, 0)),
-	list(seg(math.MinInt64, 1, 1)),
-	list(seg(math.MaxInt64, 1, 1)),
-	list(seg(0, top+1, 0)),
-	list(seg(0, 0, -top-1)),
-	list(seg(0, math.MinInt64, 0), seg(1, 0, 0)),
-	list(seg(0, 1, math.MaxInt64), seg(1, 0, 0)),
-}
-
-// value returns the value of f at t, as the words say it.
-func value(f []api.Seg, t int64) api.Vec {
-	var v api.Vec
-	for _, s := range f {
-		if s.At <= t {
-			v = s.V
-		}
-	}
-	return v
-}
-
-// below reports whether a is at most b.
-func below(a, b api.Vec) bool { return a.Mem <= b.Mem && a.Cores <= b.Cores }
+var (
+	vec   = sample.Vec
+	seg   = sample.Seg
+	list  = sample.List
+	box   = sample.Box
+	long  = sample.Long
+	value = sample.Value
+	below = sample.Below
+	spoil = sample.Spoil
+	wrong = sample.Wrong()
+)
 
 // shorts returns all canonical functions whose At are of 0, 1 and 2, and whose V are of vs; zero is one of vs.
-func shorts(vs ...api.Vec) [][]api.Seg {
-	var l [][]api.Seg
-	for _, a := range vs {
-		for _, b := range vs {
-			for _, c := range vs {
-				f, _ := rle.Of(list(api.Seg{At: 0, V: a}, api.Seg{At: 1, V: b}, api.Seg{At: 2, V: c}))
-				l = append(l, f)
-			}
-		}
-	}
-	return l
-}
-
-// long returns a function of up to n runs that goes up and down; those of different seeds share some of their At.
-func long(n, seed int64) []api.Seg {
-	var raw []api.Seg
-	at := -n
-	for i := range n {
-		at += 1 + (i*i+seed*7)%4
-		raw = append(raw, seg(at, (i*31+seed*17)%11-5, (i*13+seed*5)%7-3))
-	}
-	f, _ := rle.Of(raw)
-	return f
-}
+func shorts(vs ...api.Vec) [][]api.Seg { return sample.Shorts([]int64{0, 1, 2}, vs...) }
 
 // same holds an answer against what is expected; without runs it must be nil.
 func same(t *testing.T, call string, f []api.Seg, e api.Errno, want []api.Seg, we api.Errno) {
@@ -686,14 +632,6 @@ func TestTransitive(t *testing.T) {
 				}
 			}
 		}
-	}
-}
-
-// spoil writes over all of an answer, its spare capacity too.
-func spoil(f []api.Seg) {
-	f = f[:cap(f)]
-	for i := range f {
-		f[i] = seg(-8, -8, -8)
 	}
 }
 

@@ -7,16 +7,16 @@ import (
 
 	"livery/api"
 	"livery/rle"
+	"livery/sample"
 )
 
-const top = api.MaxValue
+const top = sample.Top
 
-func vec(mem, cores int64) api.Vec { return api.Vec{Mem: mem, Cores: cores} }
-
-func seg(at, mem, cores int64) api.Seg { return api.Seg{At: at, V: vec(mem, cores)} }
-
-// list is short for a list of runs.
-func list(l ...api.Seg) []api.Seg { return l }
+var (
+	vec  = sample.Vec
+	seg  = sample.Seg
+	list = sample.List
+)
 
 // wrong are runs that are out of range, each by one number.
 var wrong = []api.Seg{
