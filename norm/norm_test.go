@@ -10,14 +10,15 @@ import (
 	"livery/api"
 	"livery/norm"
 	"livery/parse"
+	"livery/sample"
 	"livery/shape"
 )
 
-// atom returns an atom.
-func atom(n, g uint32, d int64) api.Part { return api.Part{N: n, G: g, D: d} }
-
-// group returns a part that is no atom.
-func group(kind uint8, kids int) api.Part { return api.Part{Kind: kind, Kids: kids} }
+var (
+	atom  = sample.Atom
+	group = sample.Group
+	piece = sample.Piece
+)
 
 // Two atoms, a and b, of which a comes first.
 var (
@@ -441,9 +442,6 @@ func TestSame(t *testing.T) {
 	}
 }
 
-// piece returns a piece.
-func piece(part int, at int64) api.Piece { return api.Piece{Part: part, At: at} }
-
 // TestBack: pieces are mapped back, and sorted by their parts, whatever their order was; and which are refused (P9.3).
 func TestBack(t *testing.T) {
 	from := []int{0, 4, 2, 9, 7}
@@ -556,22 +554,6 @@ func held(t *testing.T, d, n api.Def, from []int, w []api.Piece) bool {
 	return is
 }
 
-// witnesses returns all witnesses with pieces of the first of so many parts that begin at a time below most.
-func witnesses(parts int, most int64) [][]api.Piece {
-	l := [][]api.Piece{nil}
-	for i := range parts {
-		var more [][]api.Piece
-		for _, w := range l {
-			more = append(more, w)
-			for at := range most {
-				more = append(more, append(w[:len(w):len(w)], piece(i, at)))
-			}
-		}
-		l = more
-	}
-	return l
-}
-
 // TestRows: all short definitions, with all their witnesses (P9.1, P9.2, P9.4, P9.5).
 func TestRows(t *testing.T) {
 	alphabet := []api.Part{a, b}
@@ -580,31 +562,22 @@ func TestRows(t *testing.T) {
 	}
 	var all [7][][]api.Piece
 	for n := range all {
-		all[n] = witnesses(n, []int64{0, 4, 4, 4, 3, 3, 2}[n])
+		all[n] = sample.Witnesses(n, []int64{0, 4, 4, 4, 3, 3, 2}[n])
 	}
 	var rules [5]int
 	forms, good := 0, 0
-	rows := [][]api.Part{nil}
-	for range 7 {
-		var next [][]api.Part
-		for _, l := range rows {
-			d := api.Def{To: 4, T: l}
-			if _, e := shape.Check(d); e == api.OK {
-				n, from := form(t, d, &rules)
-				forms++
-				for _, w := range all[min(len(n.T), 6)] {
-					if held(t, d, n, from, w) {
-						good++
-					}
-				}
-			}
-			for _, p := range alphabet {
-				if more := append(l[:len(l):len(l)], p); begins(more, 6) {
-					next = append(next, more)
-				}
+	for _, l := range sample.Terms(alphabet, 6) {
+		d := api.Def{To: 4, T: l}
+		if _, e := shape.Check(d); e != api.OK {
+			continue
+		}
+		n, from := form(t, d, &rules)
+		forms++
+		for _, w := range all[min(len(n.T), 6)] {
+			if held(t, d, n, from, w) {
+				good++
 			}
 		}
-		rows = next
 	}
 	t.Log(forms, good, rules)
 	if forms < 1000 || good < 1000 || slices.Min(rules[1:]) < 100 {
@@ -612,99 +585,30 @@ func TestRows(t *testing.T) {
 	}
 }
 
-// begins reports whether l is the begin of the parts of a definition of at most so many.
-func begins(l []api.Part, most int) bool {
-	due := 1
-	for i, p := range l {
-		due += p.Kids - 1
-		if due == 0 && i < len(l)-1 {
-			return false
-		}
-	}
-	return len(l)+due <= most
-}
-
-// dice produces numbers that look as if they were thrown, always the same ones.
-type dice uint64
-
-// below returns a number from 0 on and below n.
-func (d *dice) below(n int) int {
-	*d = *d*6364136223846793005 + 1442695040888963407
-	return int(uint64(*d) >> 33 % uint64(n))
-}
-
-// term returns the parts of a term that is valid, at most so deep and so many, mostly of the kind.
-func (d *dice) term(deep, many int, kind uint8) []api.Part {
-	if deep == 1 || many < 2 || d.below(3) == 0 {
-		g := uint32(1 + d.below(2))
-		return []api.Part{atom(g*uint32(1+d.below(2)), g, int64(1+d.below(2)))}
-	}
-	if d.below(3) == 0 {
-		kind = uint8(1 + d.below(4))
-	}
-	if kind == api.PaNext {
-		deep = 2
-	}
-	l := []api.Part{group(kind, 0)}
-	for kids := 1 + d.below(1+d.below(16)); kids > 0 && len(l) < many; kids-- {
-		l = append(l, d.term(deep-1, many-len(l), kind)...)
-		l[0].Kids++
-	}
-	return l
-}
-
-// place returns pieces that satisfy the part at at, the first of which begins at begin, the end of the term and the index behind it.
-func (d *dice) place(l []api.Part, at int, begin int64) ([]api.Piece, int64, int) {
-	p, next := l[at], at+1
-	if p.Kind == api.PaAtom {
-		return []api.Piece{piece(at, begin)}, begin + p.D, next
-	}
-	chosen := d.below(p.Kids)
-	end := begin
-	var w []api.Piece
-	for i := range p.Kids {
-		start := begin
-		if p.Kind == api.PaOrder || p.Kind == api.PaNext {
-			start = end
-		}
-		if p.Kind == api.PaOrder {
-			start += int64(d.below(2))
-		}
-		var more []api.Piece
-		var stop int64
-		more, stop, next = d.place(l, next, start)
-		if p.Kind != api.PaAny || i == chosen {
-			w = append(w, more...)
-			end = max(end, stop)
-		}
-	}
-	return w, end, next
-}
-
 // TestDice: definitions of many shapes, with witnesses that satisfy them, and with such as are changed (P9.1, P9.2, P9.4, P9.5).
 func TestDice(t *testing.T) {
-	x := dice(1)
+	x := sample.Dice(1)
 	var rules [5]int
 	good, bad, full := 0, 0, 0
 	for i := range 3000 {
-		d := api.Def{From: 0, To: 60, T: x.term(8, 64, uint8(1+i%4))}
+		d := api.Def{From: 0, To: 60, T: x.Term(8, 64, uint8(1+i%4))}
 		n, from := form(t, d, &rules)
 		if slices.ContainsFunc(n.T, func(p api.Part) bool { return p.Kids == api.MaxKids }) {
 			full++
 		}
 		for range 4 {
-			w, _, _ := x.place(n.T, 0, int64(x.below(3)))
+			w, _, _ := x.Place(n.T, 0, int64(x.Below(3)))
 			if held(t, d, n, from, w) {
 				good++
 			}
-			at := x.below(len(w))
-			switch x.below(3) {
+			at := x.Below(len(w))
+			switch x.Below(3) {
 			case 0:
 				w = slices.Delete(w, at, at+1)
 			case 1:
-				w[at].At += int64(x.below(5) - 2)
+				w[at].At += int64(x.Below(5) - 2)
 			case 2:
-				w[at].Part = x.below(len(n.T))
+				w[at].Part = x.Below(len(n.T))
 				slices.SortFunc(w, func(p, q api.Piece) int { return p.Part - q.Part })
 				w = slices.CompactFunc(w, func(p, q api.Piece) bool { return p.Part == q.Part })
 			}
