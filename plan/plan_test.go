@@ -22,11 +22,14 @@ const (
 )
 
 var (
-	vec  = sample.Vec
-	seg  = sample.Seg
-	list = sample.List
-	box  = sample.Box
-	rsv  = sample.Rsv
+	vec   = sample.Vec
+	seg   = sample.Seg
+	list  = sample.List
+	box   = sample.Box
+	rsv   = sample.Rsv
+	rich  = sample.RichRsv
+	same  = sample.SameRsv
+	spoil = sample.SpoilRsv
 )
 
 func add(r api.Rsv) api.Change { return api.Change{Kind: 0, R: r} }
@@ -120,12 +123,6 @@ func (b book) all(l []api.Change) (book, api.Errno) {
 		}
 	}
 	return next, api.OK
-}
-
-// same reports whether two reservations are equal in every field.
-func same(a, b api.Rsv) bool {
-	return a.Id == b.Id && a.Seq == b.Seq && a.User == b.User && a.Def.From == b.Def.From && a.Def.To == b.Def.To &&
-		slices.Equal(a.Def.T, b.Def.T) && slices.Equal(a.W, b.W) && slices.Equal(a.A, b.A)
 }
 
 // inOrder tells by the document's words which of two reservations comes first.
@@ -693,26 +690,6 @@ func TestMost(t *testing.T) {
 	f, e := calc.Add(p.User("u0"), p.User("u1"), p.User("u2"))
 	if e != api.OK || !slices.Equal(f, want) {
 		t.Error(len(f), e)
-	}
-}
-
-// rich returns a reservation all of whose lists have elements, and more of them behind their length.
-func rich(id, seq uint32, user string) api.Rsv {
-	s := rsv(id, seq, user, list(seg(2, 3, 1), seg(5, 1, 1), seg(8, 0, 0), seg(7, 7, 7), seg(1, 1, 1))[:3]...)
-	s.Def = api.Def{From: 1, To: 20, T: []api.Part{{Kind: 4, Kids: 2}, {N: 3, G: 1, D: 3}, {N: 1, G: 1, D: 6}, {Kind: 9}, {Kind: 8}}[:3]}
-	s.W = []api.Piece{{Part: 1, At: 2}, {Part: 2, At: 2}, {Part: 7, At: 7}}[:2]
-	return s
-}
-
-// spoil writes over all of a reservation's lists, their spare capacity too.
-func spoil(s *api.Rsv) {
-	sample.Spoil(s.A)
-	parts, pieces := s.Def.T[:cap(s.Def.T)], s.W[:cap(s.W)]
-	for i := range parts {
-		parts[i] = api.Part{Kind: 77, Kids: -7}
-	}
-	for i := range pieces {
-		pieces[i] = api.Piece{Part: -7, At: -7}
 	}
 }
 

@@ -13,6 +13,32 @@ func Rsv(id, seq uint32, user string, a ...api.Seg) api.Rsv {
 	return api.Rsv{Id: id, Seq: seq, User: user, A: a}
 }
 
+// RichRsv returns a reservation all of whose lists have elements, and more of them behind their length.
+func RichRsv(id, seq uint32, user string) api.Rsv {
+	s := Rsv(id, seq, user, List(Seg(2, 3, 1), Seg(5, 1, 1), Seg(8, 0, 0), Seg(7, 7, 7), Seg(1, 1, 1))[:3]...)
+	s.Def = api.Def{From: 1, To: 20, T: []api.Part{{Kind: 4, Kids: 2}, {N: 3, G: 1, D: 3}, {N: 1, G: 1, D: 6}, {Kind: 9}, {Kind: 8}}[:3]}
+	s.W = []api.Piece{{Part: 1, At: 2}, {Part: 2, At: 2}, {Part: 7, At: 7}}[:2]
+	return s
+}
+
+// SameRsv reports whether two reservations are equal in every field.
+func SameRsv(a, b api.Rsv) bool {
+	return a.Id == b.Id && a.Seq == b.Seq && a.User == b.User && a.Def.From == b.Def.From && a.Def.To == b.Def.To &&
+		slices.Equal(a.Def.T, b.Def.T) && slices.Equal(a.W, b.W) && slices.Equal(a.A, b.A)
+}
+
+// SpoilRsv writes over all of a reservation's lists, their spare capacity too.
+func SpoilRsv(s *api.Rsv) {
+	Spoil(s.A)
+	parts, pieces := s.Def.T[:cap(s.Def.T)], s.W[:cap(s.W)]
+	for i := range parts {
+		parts[i] = api.Part{Kind: 77, Kids: -7}
+	}
+	for i := range pieces {
+		pieces[i] = api.Piece{Part: -7, At: -7}
+	}
+}
+
 // WrongRsvs returns reservations that are not valid, for one reason each.
 func WrongRsvs() []api.Rsv {
 	const late = api.MaxTime
