@@ -221,14 +221,9 @@ func capacity() []api.Seg { return list(seg(-7, 9, 9), seg(5, 0, 2)) }
 // planned returns a plan with these reservations.
 func planned(t *testing.T, l ...api.Rsv) *plan.Plan {
 	t.Helper()
-	p, e := plan.New(capacity())
-	if e != api.OK {
-		t.Fatal(e)
-	}
-	for _, r := range l {
-		if e := p.Do([]api.Change{{Kind: api.ChAdd, R: r}}); e != api.OK {
-			t.Fatal(r, e)
-		}
+	p := sample.Plan(capacity(), l...)
+	if p == nil {
+		t.Fatal(l)
 	}
 	return p
 }

@@ -5,6 +5,7 @@ import (
 	"strings"
 
 	"livery/api"
+	"livery/plan"
 	"livery/rle"
 )
 
@@ -37,6 +38,19 @@ func SpoilRsv(s *api.Rsv) {
 	for i := range pieces {
 		pieces[i] = api.Piece{Part: -7, At: -7}
 	}
+}
+
+// Plan returns the plan with that capacity and these reservations, or nil if there can't be one.
+func Plan(capacity []api.Seg, l ...api.Rsv) *plan.Plan {
+	var changes []api.Change
+	for _, r := range l {
+		changes = append(changes, api.Change{Kind: api.ChAdd, R: r})
+	}
+	p, _ := plan.New(capacity)
+	if p.Do(changes) != api.OK {
+		return nil
+	}
+	return p
 }
 
 // WrongRsvs returns reservations that are not valid, for one reason each.
