@@ -26,9 +26,13 @@ var (
 	box   = sample.Box
 	rsv   = sample.Rsv
 	long  = sample.Long
-	value = sample.Value
-	below = sample.Below
 	wrong = sample.Wrong()
+
+	commit        = sample.Commit
+	bound         = sample.Bound
+	average       = sample.Average
+	wrongPolicies = sample.WrongPolicies
+	wrongTimes    = sample.WrongTimes
 )
 
 // three are a load, a capacity and a user's load.
@@ -36,69 +40,6 @@ type three = [3][]api.Seg
 
 // own returns the functions of which only a user's load has runs.
 func own(f []api.Seg) three { return three{2: f} }
-
-func commit() api.Policy { return api.Policy{Kind: 0} }
-
-func bound(mem, cores int64) api.Policy { return api.Policy{Kind: 1, Cap: vec(mem, cores)} }
-
-func average(win, mem, cores int64) api.Policy {
-	return api.Policy{Kind: 2, Cap: vec(mem, cores), Win: win}
-}
-
-// wrongPolicies returns policies that are not valid, most of them for one reason.
-func wrongPolicies() []api.Policy {
-	l := []api.Policy{{Kind: 0, Win: 1}, {Kind: 0, Win: -1}, {Kind: 0, Cap: vec(1, 0)}, {Kind: 0, Cap: vec(0, 1)}, {Kind: 0, Cap: vec(-1, 0)}, {Kind: 0, Cap: vec(0, most)}}
-	for _, kind := range []uint8{3, 4, 128, 254, 255} {
-		l = append(l, api.Policy{Kind: kind}, api.Policy{Kind: kind, Cap: vec(1, 1)}, api.Policy{Kind: kind, Cap: vec(1, 1), Win: 1})
-	}
-	for _, n := range []int64{math.MinInt64, -most, -1, most + 1, top, math.MaxInt64} {
-		l = append(l, bound(n, 1), bound(1, n), average(4, n, 1), average(4, 1, n))
-	}
-	for _, win := range []int64{math.MinInt64, -4096, -1, 0, 4097, 1<<32 + 1, math.MaxInt64} {
-		l = append(l, average(win, 1, 1))
-		if win != 0 {
-			l = append(l, api.Policy{Kind: 1, Cap: vec(1, 1), Win: win})
-		}
-	}
-	return append(l, api.Policy{Kind: 1, Cap: vec(1, 1), Win: 1})
-}
-
-// wrongTimes returns times from which on no policy is looked at.
-func wrongTimes() []int64 {
-	return []int64{-late - 1, late + 1, 1 << 41, -top, top, -1 << 62, math.MinInt64, math.MaxInt64}
-}
-
-// kept reports by the document's words whether what x asks for is so at a time.
-func kept(x api.Policy, at int64, f three) bool {
-	switch x.Kind {
-	case 0:
-		return below(value(f[0], at), value(f[1], at))
-	case 1:
-		return below(value(f[2], at), x.Cap)
-	}
-	var sum api.Vec
-	for i := range x.Win {
-		v := value(f[2], at+i)
-		sum = vec(sum.Mem+v.Mem, sum.Cores+v.Cores)
-	}
-	return below(sum, vec(x.Win*x.Cap.Mem, x.Win*x.Cap.Cores))
-}
-
-// first returns the first violation, and whether there is none, looked for at each time up to the last run of f, behind which nothing changes.
-func first(x api.Policy, now int64, f three) (at int64, holds bool) {
-	last := now
-	for _, g := range f {
-		if len(g) > 0 {
-			last = max(last, g[len(g)-1].At)
-		}
-	}
-	for at := now; at <= last; at++ {
-		if !kept(x, at, f) {
-			return at, false
-		}
-	}
-	return 0, true
-}
 
 // answers holds an answer of Check against what is expected.
 func answers(t *testing.T, x api.Policy, now int64, f three, at int64, holds bool, we api.Errno) {
@@ -111,7 +52,7 @@ func answers(t *testing.T, x api.Policy, now int64, f three, at int64, holds boo
 // looked holds an answer of Check against looking at each time one by one, and returns it.
 func looked(t *testing.T, x api.Policy, now int64, f three) (at int64, holds bool) {
 	t.Helper()
-	at, holds = first(x, now, f)
+	at, holds = sample.Violation(x, now, f)
 	answers(t, x, now, f, at, holds, api.OK)
 	return at, holds
 }
