@@ -6,6 +6,7 @@ import (
 	"go/parser"
 	"go/token"
 	"go/types"
+	"iter"
 	"os"
 	"path/filepath"
 	"slices"
@@ -387,30 +388,49 @@ func (s *source) any(t types.Type, changes map[any]bool) {
 	for _, b := range s.bodies {
 		for _, sign := range b.signs {
 			h, isToo := sign.Underlying().(*types.Signature)
-			if is && isToo && (generic(g) || generic(h) || types.Identical(g, h)) {
+			if is && isToo && alike(g.Params(), h.Params()) && alike(g.Results(), h.Results()) {
 				merge(changes, b.changes)
 			}
 		}
 	}
 }
 
-// generic reports whether a type of g is not known.
-func generic(g *types.Signature) bool {
-	for _, l := range []*types.Tuple{g.Params(), g.Results()} {
-		for v := range l.Variables() {
-			t := v.Type()
-			for {
-				if x, is := t.(*types.Slice); is {
-					t = x.Elem()
-				} else if x, is := t.(*types.Pointer); is {
-					t = x.Elem()
-				} else {
-					break
-				}
-			}
-			if _, is := t.(*types.TypeParam); is {
-				return true
-			}
+// alike reports whether a and b may be of the same types, where it is not known which ones they are.
+func alike(a, b *types.Tuple) bool {
+	if a.Len() != b.Len() {
+		return false
+	}
+	for i := range a.Len() {
+		x, y := a.At(i).Type(), b.At(i).Type()
+		if !unknown(x) && !unknown(y) && !types.Identical(x, y) {
+			return false
+		}
+	}
+	return true
+}
+
+// unknown reports whether it is not known which type t is.
+func unknown(t types.Type) bool {
+	switch x := types.Unalias(t).(type) {
+	case *types.TypeParam:
+		return true
+	case *types.Map:
+		return unknown(x.Key()) || unknown(x.Elem())
+	case interface{ Elem() types.Type }: // a pointer, a list, a channel
+		return unknown(x.Elem())
+	case *types.Signature:
+		return anyUnknown(x.Params().Variables(), (*types.Var).Type) || anyUnknown(x.Results().Variables(), (*types.Var).Type)
+	case *types.Named:
+		return anyUnknown(x.TypeArgs().Types(), func(t types.Type) types.Type { return t })
+	}
+	return false
+}
+
+// anyUnknown reports whether it is not known which type one of l is.
+func anyUnknown[T any](l iter.Seq[T], typeOf func(x T) types.Type) bool {
+	for x := range l {
+		if unknown(typeOf(x)) {
+			return true
 		}
 	}
 	return false
@@ -671,6 +691,7 @@ func two(a, b int) int { return a + b }
 func put(l []int) int { l[0] = 3; return 1 }
 func each(yield func(i int) bool) { yield(1) }
 type i interface { more() int }
+func first[T any](all func(yield func(a T) bool), f func(a T) int) int { for a := range all { return f(a) }; return 0 }
 `
 	fset := token.NewFileSet()
 	std := importer.ForCompiler(fset, "source", nil)
@@ -742,6 +763,10 @@ type i interface { more() int }
 		"slices.SortFunc(x.l, func(a, b int) int { x.n++; return a - b })": false,
 		"_ = two(x.n, slices.IndexFunc(x.l, func(a int) bool { x.n++; return true }))": true,
 		"l := []int{1}; f := func() int { slices.Sort(l); return 1 }; _ = l[0] + f()":  true,
+		"_ = x.n + first(each, func(a int) int { x.n++; return a })":                   true,
+		"_ = x.in.k + first(each, func(a int) int { x.n++; return a })":                false,
+		"f := func(a int) int { x.n++; return a }; _ = x.n + call(x.same) + f(1)":      true,
+		"f := func(a int) int { x.n++; return a }; f(1); _ = x.n + call(x.same)":       false,
 	} {
 		for _, body := range []string{code, "_ = func() { " + code + " }"} {
 			if l := found("func try(x *r) { " + body + " }"); len(l) > 0 != want {
