@@ -1,4 +1,4 @@
-// Package sample makes vectors, step functions, definitions, witnesses, reservations, plans and policies for the tests of the packages that work with them; the program itself does not call it.
+// Package sample makes vectors, step functions, definitions, witnesses, reservations, plans, policies and legs for the tests of the packages that work with them; the program itself does not call it.
 package sample
 
 import (

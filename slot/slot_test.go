@@ -16,8 +16,8 @@ import (
 
 const (
 	top  = sample.Top
-	late = int64(1 << 40)
-	span = int64(4096)
+	late = sample.Late
+	span = sample.Span
 )
 
 var (
@@ -28,55 +28,16 @@ var (
 	long  = sample.Long
 	spoil = sample.Spoil
 	wrong = sample.Wrong()
+	win   = sample.Win
+	leg   = sample.Leg
+	legs  = sample.Legs
 )
-
-// win returns the window of two times.
-func win(from, to int64) api.Win { return api.Win{From: from, To: to} }
-
-// leg returns the leg of so many ticks.
-func leg(d, mem, cores int64) api.Leg { return api.Leg{D: d, V: two(mem, cores)} }
-
-// legs returns the list of its arguments.
-func legs(l ...api.Leg) []api.Leg { return l }
 
 // asked is what the calls are asked.
 type asked struct {
 	f []api.Seg
 	w api.Win
 	l []api.Leg
-}
-
-// isList reports by the document's words whether l is a list of legs.
-func isList(l []api.Leg) bool {
-	for _, x := range l {
-		if x.D < 1 || x.D > 4096 {
-			return false
-		}
-	}
-	return len(l) >= 1 && len(l) <= 16
-}
-
-// isLong reports whether a window, whose From is below its To, is longer than 4096 ticks.
-func isLong(w api.Win) bool {
-	return w.From <= math.MaxInt64-span && w.From+span < w.To
-}
-
-// fault returns by the document's words the error of what is asked, but for ErrPlace.
-func (a asked) fault() api.Errno {
-	switch {
-	case !rle.May(a.f):
-		return api.ErrForm
-	case !isList(a.l) || a.w.From >= a.w.To || isLong(a.w):
-		return api.ErrArg
-	case a.w.From < -late || a.w.To > late:
-		return api.ErrRange
-	}
-	for _, x := range a.l {
-		if !vec.May(x.V) {
-			return api.ErrRange
-		}
-	}
-	return api.OK
 }
 
 // looked returns by the document's words the begins of what is asked without an error: each time of the window, each leg and each tick of it is looked at one by one.
@@ -117,7 +78,7 @@ func begins(values []api.Vec, l []api.Leg) bool {
 // begins returns what Begins answers; it is held against the document's words, Earliest and Latest against its first and its last time.
 func (a asked) begins(t *testing.T) ([]api.Win, api.Errno) {
 	t.Helper()
-	we := a.fault()
+	we := sample.LegsFault(a.f, a.w, a.l)
 	var want []api.Win
 	if we == api.OK {
 		want = a.looked()
@@ -261,25 +222,9 @@ func TestBegins(t *testing.T) {
 	}
 }
 
-// lists returns all lists of up to so many of the legs.
-func lists(most int, of ...api.Leg) [][]api.Leg {
-	all := [][]api.Leg{nil}
-	begin := 0
-	for range most {
-		end := len(all)
-		for _, l := range all[begin:end] {
-			for _, x := range of {
-				all = append(all, append(l[:len(l):len(l)], x))
-			}
-		}
-		begin = end
-	}
-	return all
-}
-
 // TestAll: small functions, all windows, all lists of up to three of some legs, and none (P16.1, P16.2).
 func TestAll(t *testing.T) {
-	short := lists(3, leg(1, 2, 1), leg(2, 1, 1), leg(3, 0, -1), leg(2, -1, 2))
+	short := sample.Lists(3, leg(1, 2, 1), leg(2, 1, 1), leg(3, 0, -1), leg(2, -1, 2))
 	for _, f := range append(sample.Shorts([]int64{0, 2, 3, 7}, two(0, 0), two(2, 1), two(-1, 3)), long(9, 1), long(9, 2)) {
 		for from := int64(-2); from < 8; from += 2 {
 			for to := from - 1; to < 11; to += 2 {
@@ -293,17 +238,8 @@ func TestAll(t *testing.T) {
 
 // thrown returns something to ask for in a window of up to so many ticks.
 func thrown(d *sample.Dice, most int) asked {
-	var raw []api.Seg
-	for at := int64(-d.Below(10)); at < int64(most); at += int64(1 + d.Below(1+most/4)) {
-		raw = append(raw, seg(at, int64(d.Below(7)-1), int64(d.Below(7)-1)))
-	}
-	var a asked
-	a.f, _ = rle.Of(raw)
-	a.w.From = int64(d.Below(20) - 10)
-	a.w.To = a.w.From + int64(1+d.Below(most))
-	for range 1 + d.Below(1+d.Below(16)) {
-		a.l = append(a.l, leg(int64(1+d.Below(1+most/20)), int64(d.Below(4)-1), int64(d.Below(4)-1)))
-	}
+	a := asked{f: d.Steps(most)}
+	a.w, a.l = d.Legs(most)
 	return a
 }
 
@@ -326,20 +262,11 @@ func TestThrown(t *testing.T) {
 	}
 }
 
-// comb returns the function that is v in each width-th tick of so many from from on, and zero in the others.
-func comb(from, ticks, width int64, v api.Vec) []api.Seg {
-	var f []api.Seg
-	for at := from; at < from+ticks; at += width {
-		f = append(f, api.Seg{At: at, V: v}, seg(at+1, 0, 0))
-	}
-	return f
-}
-
 // TestComb: as many windows of begins as there can be, and functions with many runs beside the window (P16.1, P16.2).
 func TestComb(t *testing.T) {
 	for _, width := range []int64{2, 3, 64} {
 		for _, from := range []int64{0, -1} {
-			f := comb(from, 5000, width, two(2, 2))
+			f := sample.Comb(from, 5000, width, two(2, 2))
 			for _, l := range [][]api.Leg{
 				legs(leg(1, 2, 2)),
 				legs(leg(1, 2, 2), leg(1, 0, 0)),
@@ -354,7 +281,7 @@ func TestComb(t *testing.T) {
 			}
 		}
 	}
-	b, e := slot.Begins(comb(0, 5000, 2, two(1, 1)), win(0, span), legs(leg(1, 1, 1)))
+	b, e := slot.Begins(sample.Comb(0, 5000, 2, two(1, 1)), win(0, span), legs(leg(1, 1, 1)))
 	if len(b) != 2048 || e != api.OK {
 		t.Error(len(b), e)
 	}
@@ -362,7 +289,7 @@ func TestComb(t *testing.T) {
 
 // TestSlow: the time does not grow with how often a leg, a run and a window of begins meet (P1).
 func TestSlow(t *testing.T) {
-	f := comb(-1<<19, 1<<20, 2, two(1, 1))
+	f := sample.Comb(-1<<19, 1<<20, 2, two(1, 1))
 	for range 100 {
 		if b, e := slot.Begins(f, win(0, span), slices.Repeat(legs(leg(1, 0, 0), leg(1, 0, 1)), 8)); len(b) != 2041-1 || e != api.OK {
 			t.Fatal(len(b), e)
@@ -406,33 +333,13 @@ func TestWindows(t *testing.T) {
 	asked{f, win(math.MinInt64, math.MinInt64+span), one}.refused(t, api.ErrRange)
 }
 
-// wrongLists returns lists that are not lists of legs, for one reason each.
-func wrongLists() [][]api.Leg {
-	one := leg(1, 1, 1)
-	all := [][]api.Leg{nil, {}, slices.Repeat(legs(one), 17), slices.Repeat(legs(one), 100)}
-	for _, d := range []int64{0, -1, span + 1, -span, 2 * span, 1<<32 + 1, top, math.MinInt64, math.MaxInt64} {
-		x := leg(d, 1, 1)
-		all = append(all, legs(x), legs(x, one), legs(one, x), append(slices.Repeat(legs(one), 15), x), legs(x, x))
-	}
-	return append(all, legs(leg(1<<62, 1, 1), leg(1<<62, 1, 1), leg(1<<62, 1, 1), leg(1<<62+1, 1, 1)))
-}
-
-// wrongVectors returns vectors that are not valid, for one reason each.
-func wrongVectors() []api.Vec {
-	var l []api.Vec
-	for _, n := range []int64{top + 1, -top - 1, 1 << 62, math.MaxInt64, math.MinInt64} {
-		l = append(l, two(n, 1), two(1, n), two(n, -top), two(0, n))
-	}
-	return l
-}
-
 // TestLegs: lists of legs, and their vectors, at the limits and one beyond (P16.1, P16.2).
 func TestLegs(t *testing.T) {
 	f := list(seg(-top, top, 5), seg(3, 5, top), seg(6, top, top), seg(9, -top, -top))
-	for _, l := range wrongLists() {
+	for _, l := range sample.WrongLists() {
 		asked{f, win(0, 9), l}.refused(t, api.ErrArg)
 	}
-	for _, v := range wrongVectors() {
+	for _, v := range sample.WrongVectors() {
 		for n := range 16 {
 			for at := range n + 1 {
 				l := slices.Repeat(legs(leg(1, 0, 0)), n+1)
@@ -455,7 +362,7 @@ func TestLegs(t *testing.T) {
 // TestOrder: all that can be wrong together, so each pair too (P16.1, P16.2, R2).
 func TestOrder(t *testing.T) {
 	var all [][]api.Leg
-	for _, l := range append(wrongLists(), legs(leg(1, 1, 1)), legs(leg(4, 0, 0), leg(4096, 1, 1))) {
+	for _, l := range append(sample.WrongLists(), legs(leg(1, 1, 1)), legs(leg(4, 0, 0), leg(4096, 1, 1))) {
 		all = append(all, l)
 		if len(l) > 0 {
 			bad := slices.Clone(l)
@@ -463,7 +370,7 @@ func TestOrder(t *testing.T) {
 			all = append(all, bad)
 		}
 	}
-	windows := []api.Win{win(0, 9), win(0, 0), win(5, 4), win(0, span+1), win(-late-1, 0), win(-late-1, -late), win(late, late+1), win(late+1, late+1), win(late, late+span+1), win(math.MinInt64, math.MaxInt64), win(math.MaxInt64, math.MinInt64), win(math.MinInt64, math.MinInt64+1)}
+	windows := append(sample.WrongWindows(), win(0, 9))
 	for _, f := range append(slices.Clone(wrong), nil, list(), example(), list(seg(-top, top, top))) {
 		for _, w := range windows {
 			for _, l := range all {
@@ -475,7 +382,7 @@ func TestOrder(t *testing.T) {
 
 // TestLength: the sum, for all lists, whatever else is wrong with their legs (P16.3).
 func TestLength(t *testing.T) {
-	for _, l := range wrongLists() {
+	for _, l := range sample.WrongLists() {
 		if n, e := slot.Length(l); n != 0 || e != api.ErrArg {
 			t.Error(l, n, e)
 		}
@@ -490,7 +397,7 @@ func TestLength(t *testing.T) {
 	is(legs(leg(span, 1, 1)), span)
 	is(slices.Repeat(legs(leg(1, 1, 1)), 16), 16)
 	is(slices.Repeat(legs(leg(span, 1, 1)), 16), 65536)
-	for _, v := range append(wrongVectors(), two(-1, -1), two(0, 0)) {
+	for _, v := range append(sample.WrongVectors(), two(-1, -1), two(0, 0)) {
 		is(legs(leg(3, 0, 0), api.Leg{D: 2, V: v}), 5)
 	}
 	d := sample.Dice(2)
