@@ -1,6 +1,10 @@
 package sample
 
-import "livery/api"
+import (
+	"slices"
+
+	"livery/api"
+)
 
 // Atom returns an atom.
 func Atom(n, g uint32, d int64) api.Part { return api.Part{N: n, G: g, D: d} }
@@ -40,6 +44,46 @@ func missing(l []api.Part) int {
 		due += p.Kids - 1
 	}
 	return due
+}
+
+// Behind returns the index behind all descendants of the part at at.
+func Behind(l []api.Part, at int) int {
+	for due := 1; due > 0; at++ {
+		due += l[at].Kids - 1
+	}
+	return at
+}
+
+// Children returns the indices of the children of the part at at.
+func Children(l []api.Part, at int) []int {
+	var kids []int
+	for next := at + 1; next < Behind(l, at); next = Behind(l, next) {
+		kids = append(kids, next)
+	}
+	return kids
+}
+
+// Shortest returns by the document's words the minimum length of the term of the part at at.
+func Shortest(l []api.Part, at int) int64 {
+	p := l[at]
+	if p.Kind == 0 {
+		return p.D
+	}
+	var all []int64
+	for _, k := range Children(l, at) {
+		all = append(all, Shortest(l, k))
+	}
+	switch p.Kind {
+	case 3:
+		return slices.Min(all)
+	case 4:
+		return slices.Max(all)
+	}
+	var sum int64
+	for _, n := range all {
+		sum += n
+	}
+	return sum
 }
 
 // Witnesses returns all lists of pieces, by increasing part, of the first of so many parts, that begin at a time from 0 on and below most.

@@ -81,15 +81,27 @@ func isLong(w api.Win) bool {
 	return w.From <= math.MaxInt64-Span && w.From+Span < w.To
 }
 
-// LegsFault returns by the document's words why it can't be asked when the legs can begin on f in the window.
-func LegsFault(f []api.Seg, w api.Win, l []api.Leg) api.Errno {
+// WindowFault returns by the document's words why nothing can be asked about legs, or stages, in the window.
+func WindowFault(w api.Win) api.Errno {
 	switch {
-	case !rle.May(f):
-		return api.ErrForm
-	case !IsLegs(l) || w.From >= w.To || isLong(w):
+	case w.From >= w.To || isLong(w):
 		return api.ErrArg
 	case w.From < -Late || w.To > Late:
 		return api.ErrRange
+	}
+	return api.OK
+}
+
+// LegsFault returns by the document's words why it can't be asked when the legs can begin on f in the window.
+func LegsFault(f []api.Seg, w api.Win, l []api.Leg) api.Errno {
+	e := WindowFault(w)
+	switch {
+	case !rle.May(f):
+		return api.ErrForm
+	case e == api.ErrArg || !IsLegs(l):
+		return api.ErrArg
+	case e != api.OK:
+		return e
 	}
 	for _, x := range l {
 		if !vec.May(x.V) {

@@ -44,28 +44,11 @@ func example(t *testing.T) api.Def {
 	return read(t, "from 0 to 100: (order (atom 2 1 10) (any (atom 4 2 5) (atom 1 1 20)))")
 }
 
-// behind returns the index behind all descendants of the part at at.
-func behind(l []api.Part, at int) int {
-	for due := 1; due > 0; at++ {
-		due += l[at].Kids - 1
-	}
-	return at
-}
-
-// children returns the indices of the children of the part at at.
-func children(l []api.Part, at int) []int {
-	var kids []int
-	for next := at + 1; next < behind(l, at); next = behind(l, next) {
-		kids = append(kids, next)
-	}
-	return kids
-}
-
 // pieces returns the pieces of the term of the part at at.
 func pieces(l []api.Part, w []api.Piece, at int) []api.Piece {
 	var own []api.Piece
 	for _, p := range w {
-		if at <= p.Part && p.Part < behind(l, at) {
+		if at <= p.Part && p.Part < sample.Behind(l, at) {
 			own = append(own, p)
 		}
 	}
@@ -91,7 +74,7 @@ func holds(l []api.Part, w []api.Piece, at int) bool {
 	if kind == 0 {
 		return len(pieces(l, w, at)) == 1
 	}
-	kids := children(l, at)
+	kids := sample.Children(l, at)
 	if kind == 3 {
 		used := slices.DeleteFunc(kids, func(k int) bool { return len(pieces(l, w, k)) == 0 })
 		return len(used) == 1 && holds(l, w, used[0])
@@ -109,29 +92,6 @@ func holds(l []api.Part, w []api.Piece, at int) bool {
 		}
 	}
 	return true
-}
-
-// shortest returns the minimum length of the term of the part at at, by the document's words.
-func shortest(l []api.Part, at int) int64 {
-	p := l[at]
-	if p.Kind == 0 {
-		return p.D
-	}
-	var all []int64
-	for _, k := range children(l, at) {
-		all = append(all, shortest(l, k))
-	}
-	switch p.Kind {
-	case 3:
-		return slices.Min(all)
-	case 4:
-		return slices.Max(all)
-	}
-	var sum int64
-	for _, n := range all {
-		sum += n
-	}
-	return sum
 }
 
 // used returns what w uses at the time at.
@@ -177,8 +137,8 @@ func told(t *testing.T, d api.Def, w []api.Piece, at int) bool {
 	is, e := sat.Term(d, w, at)
 	begin, end, placed, f := sat.Ends(d, w, at)
 	length, g := sat.Short(d, at)
-	if is != want || begin != b || end != c || placed != (len(own) > 0) || length != shortest(d.T, at) || e != api.OK || f != api.OK || g != api.OK {
-		t.Fatalf("%v, %v at %d: %t, %d; %d to %d, %t, %d; %d, %d; expected %t, %d to %d, %d", d, w, at, is, e, begin, end, placed, f, length, g, want, b, c, shortest(d.T, at))
+	if is != want || begin != b || end != c || placed != (len(own) > 0) || length != sample.Shortest(d.T, at) || e != api.OK || f != api.OK || g != api.OK {
+		t.Fatalf("%v, %v at %d: %t, %d; %d to %d, %t, %d; %d, %d; expected %t, %d to %d, %d", d, w, at, is, e, begin, end, placed, f, length, g, want, b, c, sample.Shortest(d.T, at))
 	}
 	if is && (!placed || end-begin < length) {
 		t.Fatal(d, w, at, begin, end, length)
